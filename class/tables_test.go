@@ -32,7 +32,7 @@ var odd = []int{
 }
 
 var (
-	bare  = api.Flags{}
+	bare     = api.Flags{}
 	withFold = api.Flags{Fold: true}
 )
 
